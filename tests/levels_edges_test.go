@@ -126,16 +126,8 @@ func TestEnvLimits(t *testing.T) {
 	if v, ok := impl.LevelEval(l, []int{impl.MaxNum, 0, impl.MaxNum, 0, impl.MaxNum}); !ok || v != 1001 {
 		t.Error(v, ok)
 	}
-	bad := [][]int{nil, {}, {0, 0, 0, 0}, {0, 0, 0, 0, 0, 0}, make([]int, 1000)}
-	for p := range impl.MaxParams {
-		for _, v := range []int{impl.MaxNum + 1, -1, math.MaxInt, math.MinInt} {
-			env := zeroEnv()
-			env[p] = v
-			bad = append(bad, env)
-		}
-	}
 	closed := readLevel(t, "0 s")
-	for _, env := range bad {
+	for _, env := range badEnvs() {
 		if v, ok := impl.LevelEval(l, env); ok || v != 0 {
 			t.Errorf("LevelEval for %v: %d, %v", env, v, ok)
 		}

@@ -1,6 +1,7 @@
 package tests
 
 import (
+	"math"
 	"slices"
 	"testing"
 
@@ -16,8 +17,30 @@ func readLevel(t *testing.T, text string) []impl.Tok {
 	return l
 }
 
+func readLevels(t *testing.T, texts ...string) [][]impl.Tok {
+	t.Helper()
+	var out [][]impl.Tok
+	for _, text := range texts {
+		out = append(out, readLevel(t, text))
+	}
+	return out
+}
+
 func zeroEnv() []int {
 	return make([]int, impl.MaxParams)
+}
+
+// badEnvs have the wrong length, or one element that is out of range.
+func badEnvs() [][]int {
+	out := [][]int{nil, {}, {0, 0, 0, 0}, {0, 0, 0, 0, 0, 0}, make([]int, 1000)}
+	for p := range impl.MaxParams {
+		for _, v := range []int{impl.MaxNum + 1, -1, math.MaxInt, math.MinInt} {
+			env := zeroEnv()
+			env[p] = v
+			out = append(out, env)
+		}
+	}
+	return out
 }
 
 func evalLevel(t *testing.T, l []impl.Tok, env []int) int {
@@ -153,18 +176,14 @@ func shortLevels(n int) [][]impl.Tok {
 
 func longLevels(t *testing.T) [][]impl.Tok {
 	t.Helper()
-	texts := []string{
+	out := readLevels(t,
 		"u0 s s u1 imax u2 max s u3 u4 s imax imax",
 		"u4 u3 imax u2 imax u1 imax u0 imax s s s",
 		"u0 u1 imax s u0 u1 imax s imax u2 u2 imax max",
 		"0 s u0 imax 0 s s u1 imax max 0 s s s u4 imax max",
 		"u0 u0 max u0 max u0 max u0 max u0 max u0 max u0 max u0 max u0 max u0 max u0 imax s",
 		"u0 u1 u2 u3 u4 imax imax imax imax u4 u3 u2 u1 u0 max max max max imax",
-	}
-	var out [][]impl.Tok
-	for _, x := range texts {
-		out = append(out, readLevel(t, x))
-	}
+	)
 	return append(out, tower(impl.MaxLevel))
 }
 

@@ -219,15 +219,7 @@ func TestNormEvalEnvs(t *testing.T) {
 	if v := evalNorm(t, n, []int{9, 1, 9, 9, 9}); v != 5 {
 		t.Error(v)
 	}
-	bad := [][]int{nil, {}, {0, 0, 0, 0}, {0, 0, 0, 0, 0, 0}, make([]int, 1000)}
-	for p := range impl.MaxParams {
-		for _, v := range []int{impl.MaxNum + 1, -1, math.MaxInt, math.MinInt} {
-			env := zeroEnv()
-			env[p] = v
-			bad = append(bad, env)
-		}
-	}
-	for _, env := range bad {
+	for _, env := range badEnvs() {
 		for _, n := range [][]impl.Atom{n, {{Param: -1, Off: 5}}} {
 			if v, ok := impl.NormEval(n, env); ok || v != 0 {
 				t.Errorf("NormEval(%v, %v) = %d, %v", n, env, v, ok)
@@ -263,7 +255,8 @@ func TestNormLeOfNumbers(t *testing.T) {
 	}
 }
 
-// The OpMax of an atom follows its OpSuccs.
+// The chapter is read so that each atom but the first is directly followed by
+// its OpMax; an OpMax for each of them at the end would have the same values.
 func TestNormLevelTokens(t *testing.T) {
 	cases := []struct {
 		norm []impl.Atom

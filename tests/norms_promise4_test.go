@@ -225,7 +225,7 @@ func TestPromise4NormFreeHasTheValuesOfTheLevel(t *testing.T) {
 // freeLevels are long levels without OpImax.
 func freeLevels(t *testing.T) [][]impl.Tok {
 	t.Helper()
-	texts := []string{
+	out := readLevels(t,
 		"u0 s u1 max s u2 max s u3 max s u4 max s 0 s s s max",
 		"u0 u1 s u2 s u3 s u4 s max s max s max s max s",
 		"0 s s s s s s s s s u3 max s u3 s s s s s s s s s max",
@@ -233,10 +233,6 @@ func freeLevels(t *testing.T) [][]impl.Tok {
 		"0 u0 max s 0 u0 max s s max 0 u0 max s s s max 0 max s",
 		"0 0 0 0 0 0 0 0 0 0 0 0 max max max max max max max max max max max",
 		"u0 0 s max u1 0 s s max max s u2 0 s s s s max s max",
-	}
-	var out [][]impl.Tok
-	for _, x := range texts {
-		out = append(out, readLevel(t, x))
-	}
+	)
 	return append(out, tower(impl.MaxLevel))
 }

@@ -148,6 +148,19 @@ func badToks() []impl.Tok {
 	}
 }
 
+func badLevels() [][]impl.Tok {
+	zero, succ := impl.Tok{Op: impl.OpZero}, impl.Tok{Op: impl.OpSucc}
+	greater, guarded := impl.Tok{Op: impl.OpMax}, impl.Tok{Op: impl.OpImax}
+	out := [][]impl.Tok{
+		nil, {}, {succ}, {greater}, {guarded}, {zero, greater}, {zero, guarded}, {zero, zero}, {succ, zero},
+		{zero, zero, {Op: impl.OpImax, N: 1}}, tower(impl.MaxLevel + 1),
+	}
+	for _, tok := range badToks() {
+		out = append(out, []impl.Tok{tok})
+	}
+	return out
+}
+
 // sequences calls visit for every list of at most n of the tokens.
 func sequences(toks []impl.Tok, n int, visit func(l []impl.Tok)) {
 	var grow func(l []impl.Tok)

@@ -336,12 +336,7 @@ func TestNormFreeLimits(t *testing.T) {
 		n, ok := impl.NormFree(readLevel(t, text))
 		refusedNorm(t, "NormFree of "+text, n, ok)
 	}
-	bad := [][]impl.Tok{
-		nil, {}, {behindTok}, {{Op: impl.OpMax}}, tower(impl.MaxLevel + 1), {{Op: impl.OpZero}, {Op: impl.OpMax}},
-		{{Op: impl.OpZero}, {Op: impl.OpZero}}, {{Op: impl.OpParam, N: 5}}, {{Op: impl.OpParam, N: -1}}, {{Op: impl.OpZero, N: 1}}, {{Op: 5}}, {{Op: -1}},
-		{{Op: impl.OpZero}, {Op: impl.OpZero}, {Op: impl.OpImax, N: 1}}, {{Op: impl.OpImax}},
-	}
-	for _, l := range bad {
+	for _, l := range badLevels() {
 		n, ok := impl.NormFree(l)
 		refusedNorm(t, "NormFree of an invalid level", n, ok)
 	}

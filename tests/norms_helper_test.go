@@ -85,8 +85,9 @@ func atomLists(atoms []impl.Atom, n int) [][]impl.Atom {
 	return out
 }
 
-// normsOver are all norms with the Params, which are increasing, and the Offs.
-func normsOver(params []int, offs []int) [][]impl.Atom {
+// increasingLists are all lists that have, for each of the Params in order, no
+// atom or one with one of the Offs.
+func increasingLists(params []int, offs []int) [][]impl.Atom {
 	lists := [][]impl.Atom{nil}
 	for _, p := range params {
 		next := slices.Clone(lists)
@@ -97,7 +98,12 @@ func normsOver(params []int, offs []int) [][]impl.Atom {
 		}
 		lists = next
 	}
-	return slices.DeleteFunc(lists, func(n []impl.Atom) bool { return !isNorm(n) })
+	return lists
+}
+
+// normsOver are all norms with the Params, which are increasing, and the Offs.
+func normsOver(params []int, offs []int) [][]impl.Atom {
+	return slices.DeleteFunc(increasingLists(params, offs), func(n []impl.Atom) bool { return !isNorm(n) })
 }
 
 // someNorms has all norms of a few Params with small Offs, and all sets of Params.

@@ -176,19 +176,7 @@ func TestPromise6ImaxBesideMax(t *testing.T) {
 func TestPromise6IdleParamsHaveNoInfluence(t *testing.T) {
 	envs := envsOver(0, 1, 50)
 	for _, l := range idleLevels(t) {
-		x := treeOf(l)
-		var want []int
-		for _, p := range paramsOf(l) {
-			same := true
-			for _, env := range envs {
-				without := slices.Clone(env)
-				without[p] = 0
-				same = same && x.value(env) == x.value(without)
-			}
-			if same {
-				want = append(want, p)
-			}
-		}
+		want := slices.DeleteFunc(paramsOf(l), func(p int) bool { return !hasNoInfluence(p, l, envs) })
 		if got := impl.LevelIdle(l); !slices.Equal(got, want) {
 			t.Fatalf("LevelIdle(%v) = %v, not %v", l, got, want)
 		}

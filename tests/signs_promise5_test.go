@@ -212,17 +212,24 @@ func treeValues(l []impl.Tok, envs [][]int) []int {
 func TestPromise5SignMergeTellsWhatTheValueDependsOn(t *testing.T) {
 	envs := envsOver(0, 1, 50)
 	for _, l := range signLevels(t) {
-		x := treeOf(l)
 		for p := range impl.MaxParams {
-			want := true
-			for _, env := range envs {
-				without := slices.Clone(env)
-				without[p] = 0
-				want = want && x.value(env) == x.value(without)
-			}
-			if impl.SignMerge(l, p) != want {
+			if want := hasNoInfluence(p, l, envs); impl.SignMerge(l, p) != want {
 				t.Fatalf("SignMerge(%v, %d) = %v", l, p, !want)
 			}
 		}
 	}
+}
+
+// hasNoInfluence tells whether the level has the same value for each of the
+// envs if the parameter p is 0 there.
+func hasNoInfluence(p int, l []impl.Tok, envs [][]int) bool {
+	x := treeOf(l)
+	for _, env := range envs {
+		without := slices.Clone(env)
+		without[p] = 0
+		if x.value(env) != x.value(without) {
+			return false
+		}
+	}
+	return true
 }

@@ -107,8 +107,13 @@ func (s envSet) within(other envSet) bool {
 var consEnvs = sync.OnceValue(func() [][]int { return envsOver(0, 1, 2, 3, 4, 5) })
 
 func envsWhere(in func(env []int) bool) envSet {
-	out := make(envSet, len(consEnvs())/64+1)
-	for i, env := range consEnvs() {
+	return setOver(consEnvs(), in)
+}
+
+// setOver has a bit for each of the envs.
+func setOver(envs [][]int, in func(env []int) bool) envSet {
+	out := make(envSet, len(envs)/64+1)
+	for i, env := range envs {
 		if in(env) {
 			out[i/64] |= 1 << (i % 64)
 		}
@@ -129,17 +134,22 @@ var conEnvs = sync.OnceValue(func() map[impl.Con]envSet {
 var signEnvs = sync.OnceValue(func() []envSet {
 	var out []envSet
 	for sign := range signCount {
-		out = append(out, envsWhere(func(env []int) bool {
-			for p, up := range positive(sign) {
-				if up != (env[p] > 0) {
-					return false
-				}
-			}
-			return true
-		}))
+		out = append(out, envsWhere(hasSign(sign)))
 	}
 	return out
 })
+
+func hasSign(sign int) func(env []int) bool {
+	ups := positive(sign)
+	return func(env []int) bool {
+		for p, up := range ups {
+			if up != (env[p] > 0) {
+				return false
+			}
+		}
+		return true
+	}
+}
 
 // A gap is that j is at least i plus width.
 type gap struct {

@@ -176,7 +176,7 @@ func TestComparingUnderContradictions(t *testing.T) {
 	full := fullList()
 	full[23] = lt(3, 0)
 	lists := [][]impl.Con{{lt(0, 0)}, {lt(3, -1)}, {lt(0, 1), lt(1, 0)}, {eq(0, -1), lt(1, 0)}, {le(0, 1), le(1, 2), lt(2, 0), lt(3, 4)}, {lt(-1, -1)}, full}
-	levels := append(underLevels()[:20], tower(impl.MaxLevel))
+	levels := append(slices.Clone(underLevels()[:20]), tower(impl.MaxLevel))
 	for _, list := range lists {
 		for i, a := range levels {
 			b := levels[(i*7+3)%len(levels)]

@@ -76,19 +76,32 @@ func arenaCalls(t *testing.T) []arenaCall {
 	}
 }
 
+// A memoryCall asks functions, overwrites what they return, and tells what it
+// was. It also tells everything in the memory of its arguments.
+type memoryCall interface {
+	ask() string
+	tell() string
+}
+
+// leftAlone checks that a call with room behind its arguments answers what the
+// plain one does, time after time, and that its arguments stay as they are.
+func leftAlone(t *testing.T, k int, plain, c memoryCall) {
+	t.Helper()
+	kept := c.tell()
+	want := plain.ask()
+	for range 3 {
+		if said := c.ask(); said != want {
+			t.Errorf("call %d: %s, not %s", k, said, want)
+		}
+		if c.tell() != kept {
+			t.Errorf("an argument of call %d was modified, or is shared with a result", k)
+		}
+	}
+}
+
 func TestArenasModifyAndShareNothing(t *testing.T) {
 	for k, plain := range arenaCalls(t) {
-		c := plain.withSpare(behindNode)
-		kept := c.tell()
-		want := plain.ask()
-		for range 3 {
-			if said := c.ask(); said != want {
-				t.Errorf("call %d: %s, not %s", k, said, want)
-			}
-			if c.tell() != kept {
-				t.Errorf("an argument of call %d was modified, or is shared with a result", k)
-			}
-		}
+		leftAlone(t, k, plain, plain.withSpare(behindNode))
 	}
 }
 

@@ -99,6 +99,22 @@ func leftAlone(t *testing.T, k int, plain, c memoryCall) {
 	}
 }
 
+// inAnyOrder checks that the calls answer backwards what they do forwards.
+func inAnyOrder[C memoryCall](t *testing.T, calls []C, times int) {
+	t.Helper()
+	var forward []string
+	for _, c := range calls {
+		forward = append(forward, c.ask())
+	}
+	for range times {
+		for k, c := range slices.Backward(calls) {
+			if said := c.ask(); said != forward[k] {
+				t.Fatalf("%s for call %d, and %s before", said, k, forward[k])
+			}
+		}
+	}
+}
+
 func TestArenasModifyAndShareNothing(t *testing.T) {
 	for k, plain := range arenaCalls(t) {
 		leftAlone(t, k, plain, plain.withSpare(behindNode))
@@ -209,17 +225,7 @@ func TestArenasDoNotDependOnTheOrderOfCallsOrOfAMap(t *testing.T) {
 		n := max(len(list), 1)
 		calls = append(calls, arenaCall{list, longLevels(t)[k%len(longLevels(t))], k * 31 % n, arenaEnvs()[k%len(arenaEnvs())], []int{k % n, k * 7 % n, k * 13 % n}})
 	}
-	var forward []string
-	for _, c := range calls {
-		forward = append(forward, c.ask())
-	}
-	for range 8 {
-		for k := len(calls) - 1; k >= 0; k-- {
-			if said := calls[k].ask(); said != forward[k] {
-				t.Fatalf("%s for call %d, and %s before", said, k, forward[k])
-			}
-		}
-	}
+	inAnyOrder(t, calls, 8)
 }
 
 func TestNoArenaPanics(t *testing.T) {

@@ -162,13 +162,15 @@ func isTTok(tok impl.TTok) bool {
 		}
 	}
 	index := 0 <= tok.N && tok.N <= 99
-	return map[int]bool{
-		impl.TmSort:  tok.N == 0 && len(tok.Levels) == 1,
-		impl.TmVar:   index && len(tok.Levels) == 0,
-		impl.TmPi:    tok.N == 0 && len(tok.Levels) == 0,
-		impl.TmApp:   tok.N == 0 && len(tok.Levels) == 0,
-		impl.TmConst: index && len(tok.Levels) <= 5,
-	}[tok.Op]
+	switch tok.Op {
+	case impl.TmSort:
+		return tok.N == 0 && len(tok.Levels) == 1
+	case impl.TmVar:
+		return index && len(tok.Levels) == 0
+	case impl.TmPi, impl.TmApp:
+		return tok.N == 0 && len(tok.Levels) == 0
+	}
+	return tok.Op == impl.TmConst && index && len(tok.Levels) <= 5
 }
 
 // namedOf returns nil for what the chapter does not call a valid term.

@@ -259,15 +259,7 @@ func TestTermsDoNotDependOnTheOrderOfCalls(t *testing.T) {
 	for k, x := range terms {
 		calls = append(calls, termCall{underLists()[k%18], x, terms[k*37%len(terms)], k % 101, substitutes(t)[k%4]})
 	}
-	var forward []string
-	for _, c := range calls {
-		forward = append(forward, c.ask())
-	}
-	for k := len(calls) - 1; k >= 0; k-- {
-		if said := calls[k].ask(); said != forward[k] {
-			t.Fatalf("%s for call %d, and %s before", said, k, forward[k])
-		}
-	}
+	inAnyOrder(t, calls, 1)
 }
 
 func TestNoTermPanics(t *testing.T) {
